@@ -690,18 +690,22 @@ func TestDefaultValuesOfChoices(t *testing.T) {
 	}
 }
 
-// plainDefault is the default value as the document says it.
-func plainDefault(d impl.Description, rule int) impl.Value {
-	r, v := d.Rules[rule], impl.Value{}
-	kids := r.Kids
+// plainPart is a part of a default value as the document says it, but for its items; the rules are those of the items.
+func plainPart(d impl.Description, rule int) (impl.Value, []int) {
+	r := d.Rules[rule]
 	switch r.Kind {
-	case impl.KindInteger, impl.KindConst, impl.KindSized, impl.KindArray, impl.KindOption, impl.KindTerminated:
-		return v
 	case impl.KindFixed:
-		return zeros(r.Size)
+		return zeros(r.Size), nil
 	case impl.KindChoice:
-		v.Number, kids = r.Tags[0], kids[1:2]
+		return num(r.Tags[0]), r.Kids[1:2]
+	case impl.KindSequence, impl.KindChecked:
+		return impl.Value{}, r.Kids
 	}
+	return impl.Value{}, nil
+}
+
+func plainDefault(d impl.Description, rule int) impl.Value {
+	v, kids := plainPart(d, rule)
 	for _, kid := range kids {
 		v.Items = append(v.Items, plainDefault(d, kid))
 	}
@@ -737,21 +741,8 @@ func TestDefaultValuesOverManyLevels(t *testing.T) {
 	}
 }
 
-// No memory holds the default values of such descriptions: the function returns nevertheless, at once, and later rules that use none of this are not affected.
-func TestDefaultValuesThatAreTooLarge(t *testing.T) {
-	d := described(t, append(chain("integer 1", eightParts)[:21], "flag option r20", "small choice r0 7:flag 8:r20", "large choice r0 7:r20 8:r0")...)
-	for _, rule := range []int{9, 14, 20, 23} {
-		if got := impl.DefaultValue(d, rule); plainText(got) != plainText(impl.Value{}) {
-			t.Errorf("DefaultValue of the rule %d has %d items", rule, len(got.Items))
-		}
-	}
-	checkDefault(t, d, 21, impl.Value{})
-	checkDefault(t, d, 22, tagged(7, impl.Value{}))
-	// The rule 22 has 2 to the power of 66 parts, and one more: in 64 bits, that would be 1.
-	wrapped := described(t, append(chain("integer 1", eightParts)[:22], "wrapped sequence a:r21 b:r21 c:r21 d:r21 e:r21 f:r21 g:r21 h:r0")...)
-	if got := impl.DefaultValue(wrapped, 22); plainText(got) != plainText(impl.Value{}) {
-		t.Errorf("DefaultValue of the rule 22 has %d items", len(got.Items))
-	}
+func TestDefaultValuesOfManyParts(t *testing.T) {
+	d := described(t, chain("integer 1", eightParts)...)
 	if v := impl.DefaultValue(d, 6); impl.CountParts(v) != 299593 || !impl.IsValidValue(d, 6, v) {
 		t.Errorf("the default value of the rule 6 has %d parts", impl.CountParts(v))
 	}
@@ -759,6 +750,63 @@ func TestDefaultValuesThatAreTooLarge(t *testing.T) {
 	if v := impl.DefaultValue(d, 19); impl.CountParts(v) != 1<<20-1 || impl.TotalBytes(v) != 3<<19 || !impl.IsValidValue(d, 19, v) {
 		t.Errorf("the default value of the rule 19 has %d parts and %d bytes", impl.CountParts(v), impl.TotalBytes(v))
 	}
+}
+
+// The value takes about 2 GB: each of its parts has memory of its own.
+func TestDefaultValuesOfVeryManyParts(t *testing.T) {
+	d := described(t, append(chain("const 01", eightParts)[:9], "r9 sequence a:r8 b:r8")...)
+	v := impl.DefaultValue(d, 9)
+	if impl.CountParts(v) != 38347923 || impl.TotalBytes(v) != 0 || !impl.IsValidValue(d, 9, v) {
+		t.Fatalf("the default value of the rule 9 has %d items, and %d parts in all", len(v.Items), impl.CountParts(v))
+	}
+	next := 0
+	overwriteParts(&v, &next)
+	if next = 0; !isOverwritten(&v, &next) {
+		t.Error("parts of the default value share memory")
+	}
+}
+
+// checkPath follows a default value from its items to theirs, down to a part that has none; choose says which item is next.
+func checkPath(t *testing.T, d impl.Description, rule int, v impl.Value, choose func(count int) int) {
+	t.Helper()
+	for {
+		want, kids := plainPart(d, rule)
+		if v.Number != want.Number || string(v.Bytes) != string(want.Bytes) || len(v.Items) != len(kids) {
+			t.Fatalf("the part of the rule %q has the number %d, %d bytes and %d items", impl.FormatRule(d, rule), v.Number, len(v.Bytes), len(v.Items))
+		}
+		if len(kids) == 0 {
+			return
+		}
+		item := choose(len(kids))
+		rule, v = kids[item], v.Items[item]
+	}
+}
+
+// No memory holds all parts of these default values: each part that is looked at is there nevertheless, and other rules are not affected.
+func TestDefaultValuesThatNoMemoryHolds(t *testing.T) {
+	random := rand.New(rand.NewSource(31))
+	d := described(t, append(chain("fixed 2", eightParts)[:20], "byte integer 1", "flag option r19", "small choice byte 7:flag 8:r19", "large choice byte 7:r19 8:byte")...)
+	// The rule 22 has 2 to the power of 66 parts, and one more: in 64 bits, that would be 1.
+	wrapped := described(t, append(chain("integer 1", eightParts)[:22], "wrapped sequence a:r21 b:r21 c:r21 d:r21 e:r21 f:r21 g:r21 h:r0", "sealed checked wrapped")...)
+	for _, c := range []struct {
+		d    impl.Description
+		rule int
+	}{{d, 12}, {d, 19}, {d, 23}, {wrapped, 21}, {wrapped, 22}, {wrapped, 23}} {
+		v := impl.DefaultValue(c.d, c.rule)
+		checkPath(t, c.d, c.rule, v, func(count int) int { return 0 })
+		checkPath(t, c.d, c.rule, v, func(count int) int { return count - 1 })
+		for range 500 {
+			checkPath(t, c.d, c.rule, v, random.Intn)
+		}
+		for part := &v; len(part.Items) > 0; part = &part.Items[0] {
+			part.Number += 1000
+		}
+		checkPath(t, c.d, c.rule, impl.DefaultValue(c.d, c.rule), func(count int) int { return 0 })
+	}
+	checkDefault(t, d, 0, zeros(2))
+	checkDefault(t, d, 1, times(8, zeros(2)))
+	checkDefault(t, d, 21, impl.Value{})
+	checkDefault(t, d, 22, tagged(7, impl.Value{}))
 }
 
 // checkItemRules tests the items of a value; the wanted rules are those of all its items.
