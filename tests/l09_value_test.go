@@ -752,6 +752,16 @@ func TestDefaultValuesOfManyParts(t *testing.T) {
 	}
 }
 
+// checkOwnMemory tests that no two slices of a value share memory, on any level.
+func checkOwnMemory(t *testing.T, v impl.Value) {
+	t.Helper()
+	next := 0
+	overwriteParts(&v, &next)
+	if next = 0; !isOverwritten(&v, &next) {
+		t.Errorf("two slices of a value with %d parts share memory", impl.CountParts(v))
+	}
+}
+
 // The value takes about 2 GB: each of its parts has memory of its own.
 func TestDefaultValuesOfVeryManyParts(t *testing.T) {
 	d := described(t, append(chain("const 01", eightParts)[:9], "r9 sequence a:r8 b:r8")...)
@@ -759,54 +769,53 @@ func TestDefaultValuesOfVeryManyParts(t *testing.T) {
 	if impl.CountParts(v) != 38347923 || impl.TotalBytes(v) != 0 || !impl.IsValidValue(d, 9, v) {
 		t.Fatalf("the default value of the rule 9 has %d items, and %d parts in all", len(v.Items), impl.CountParts(v))
 	}
-	next := 0
-	overwriteParts(&v, &next)
-	if next = 0; !isOverwritten(&v, &next) {
-		t.Error("parts of the default value share memory")
-	}
+	checkOwnMemory(t, v)
 }
 
-// checkPath follows a default value from its items to theirs, down to a part that has none; choose says which item is next.
-func checkPath(t *testing.T, d impl.Description, rule int, v impl.Value, choose func(count int) int) {
-	t.Helper()
-	for {
-		want, kids := plainPart(d, rule)
-		if v.Number != want.Number || string(v.Bytes) != string(want.Bytes) || len(v.Items) != len(kids) {
-			t.Fatalf("the part of the rule %q has the number %d, %d bytes and %d items", impl.FormatRule(d, rule), v.Number, len(v.Bytes), len(v.Items))
-		}
-		if len(kids) == 0 {
-			return
-		}
-		item := choose(len(kids))
-		rule, v = kids[item], v.Items[item]
+// What is written to the items or the bytes of one part changes no other part of the same rule, next to it or on another level.
+func TestPartsOfDefaultValuesShareNothing(t *testing.T) {
+	d := described(t, "id fixed 3", "byte integer 1", "pair sequence a:id b:id", "four sequence a:pair b:pair c:id", "kind choice byte 5:four 6:id", "sealed checked kind", "all sequence a:id b:pair c:four d:kind e:sealed f:four g:kind h:byte")
+	written := []func(v *impl.Value){
+		func(v *impl.Value) { v.Items[1].Items[0].Bytes[2] = 7 },
+		func(v *impl.Value) { v.Items[2].Items[1].Items[1] = num(5) },
+		func(v *impl.Value) { v.Items[3].Items[0].Items[0] = raw("other") },
+		func(v *impl.Value) { v.Items[4].Items[0].Items[0].Items[2].Bytes[0]++ },
+		func(v *impl.Value) { v.Items[5].Items = v.Items[5].Items[:1] },
 	}
-}
-
-// No memory holds all parts of these default values: each part that is looked at is there nevertheless, and other rules are not affected.
-func TestDefaultValuesThatNoMemoryHolds(t *testing.T) {
-	random := rand.New(rand.NewSource(31))
-	d := described(t, append(chain("fixed 2", eightParts)[:20], "byte integer 1", "flag option r19", "small choice byte 7:flag 8:r19", "large choice byte 7:r19 8:byte")...)
-	// The rule 22 has 2 to the power of 66 parts, and one more: in 64 bits, that would be 1.
-	wrapped := described(t, append(chain("integer 1", eightParts)[:22], "wrapped sequence a:r21 b:r21 c:r21 d:r21 e:r21 f:r21 g:r21 h:r0", "sealed checked wrapped")...)
+	for at, write := range written {
+		v := impl.DefaultValue(d, 6)
+		want := plainDefault(d, 6)
+		write(&v)
+		write(&want)
+		if plainText(v) != plainText(want) {
+			t.Errorf("after the writing %d, the value is %+v, want %+v", at, v, want)
+		}
+	}
+	checkOwnMemory(t, impl.DefaultValue(d, 6))
+	// Eight parts of one rule on seven levels, with bytes; one part of each rule on 23 levels; and parts of one rule on several levels.
 	for _, c := range []struct {
-		d    impl.Description
-		rule int
-	}{{d, 12}, {d, 19}, {d, 23}, {wrapped, 21}, {wrapped, 22}, {wrapped, 23}} {
-		v := impl.DefaultValue(c.d, c.rule)
-		checkPath(t, c.d, c.rule, v, func(count int) int { return 0 })
-		checkPath(t, c.d, c.rule, v, func(count int) int { return count - 1 })
-		for range 500 {
-			checkPath(t, c.d, c.rule, v, random.Intn)
-		}
-		for part := &v; len(part.Items) > 0; part = &part.Items[0] {
-			part.Number += 1000
-		}
-		checkPath(t, c.d, c.rule, impl.DefaultValue(c.d, c.rule), func(count int) int { return 0 })
+		first, line string
+		rule        int
+	}{{"fixed 5", eightParts, 6}, {"fixed 5", "sequence a:% b:%", 17}, {"fixed 64", "sequence a:r0 b:% c:r0", 23}, {"fixed 1", "checked %", 23}, {"integer 1", "choice r0 200:% 201:r0", 23}} {
+		d := described(t, chain(c.first, c.line)...)
+		checkOwnMemory(t, impl.DefaultValue(d, c.rule))
 	}
+	lines := []string{"r0 fixed 2", "r1 sequence a:r0 b:r0"}
+	for rule := 2; rule <= 14; rule++ {
+		last, before := strconv.Itoa(rule-1), strconv.Itoa(rule-2)
+		lines = append(lines, "r"+strconv.Itoa(rule)+" sequence a:r"+last+" b:r"+before+" c:r"+last+" d:r0")
+	}
+	checkOwnMemory(t, impl.DefaultValue(described(t, lines...), 14))
+}
+
+// A rule may be described together with others that have more parts than any memory holds.
+func TestDefaultValuesBesideVeryLargeOnes(t *testing.T) {
+	d := described(t, append(chain("fixed 2", eightParts)[:20], "byte integer 1", "flag option r19", "small choice byte 7:flag 8:r19", "rows array byte r19")...)
 	checkDefault(t, d, 0, zeros(2))
 	checkDefault(t, d, 1, times(8, zeros(2)))
 	checkDefault(t, d, 21, impl.Value{})
 	checkDefault(t, d, 22, tagged(7, impl.Value{}))
+	checkDefault(t, d, 23, impl.Value{})
 }
 
 // checkItemRules tests the items of a value; the wanted rules are those of all its items.
