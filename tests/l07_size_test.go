@@ -857,7 +857,16 @@ func invalidDescriptions() []impl.Description {
 	for _, kids := range [][2]int{{1, 0}, {0, 2}, {2, 1}} {
 		list = append(list, impl.Description{Rules: []impl.Rule{{Name: "a", Kind: impl.KindFixed, Size: 1}, {Name: "b", Kind: impl.KindOption, Kids: kids[:1]}, {Name: "c", Kind: impl.KindOption, Kids: kids[1:]}}})
 	}
-	return list
+	return append(list, brokenBehind()...)
+}
+
+// brokenBehind returns descriptions of which the first eleven rules are valid: what breaks them is a later rule, or one too many.
+func brokenBehind() []impl.Description {
+	late := impl.Rule{Name: "late", Kind: impl.KindOption, Kids: []int{11}}
+	double := impl.Rule{Name: "integer", Kind: impl.KindFixed, Size: 1}
+	return []impl.Description{
+		{Rules: append(allKinds().Rules, late)}, {Rules: append(allKinds().Rules, double)}, {Rules: append(allKinds().Rules, manyRules(14).Rules...)},
+	}
 }
 
 func TestSizesOfInvalidDescriptions(t *testing.T) {

@@ -537,18 +537,13 @@ func TestStartsOfInvalidDescriptions(t *testing.T) {
 			}
 		}
 	}
-	// What breaks a description may be a rule that is not asked about: a later one, or one too many.
-	late := append(allKinds().Rules, impl.Rule{Name: "late", Kind: impl.KindOption, Kids: []int{11}})
-	double := append(allKinds().Rules, impl.Rule{Name: "integer", Kind: impl.KindFixed, Size: 1})
-	for _, rules := range [][]impl.Rule{late, double, append(allKinds().Rules, manyRules(14).Rules...)} {
-		d := impl.Description{Rules: rules}
-		for a := range rules {
-			checkNoStart(t, d, a)
-			for b := range rules {
+	for _, d := range brokenBehind() {
+		for a := range d.Rules {
+			for b := range d.Rules {
 				checkNoPair(t, d, a, b)
 			}
 		}
-		checkStarts(t, impl.Description{Rules: rules[:11]}, 2, []int{80})
+		checkStarts(t, impl.Description{Rules: d.Rules[:11]}, 2, []int{80})
 	}
 }
 

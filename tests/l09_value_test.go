@@ -1256,13 +1256,43 @@ func TestDefaultValuesAreNewMemory(t *testing.T) {
 	}
 }
 
+// eachMissingRule calls check with rules that valid descriptions do not have.
+func eachMissingRule(check func(d impl.Description, rule int)) {
+	for _, d := range append(validDescriptions(), startDescriptions(50)...) {
+		for _, rule := range outsideIndexes(len(d.Rules)) {
+			check(d, rule)
+		}
+	}
+	// Rules in the spare capacity, and those that were cut off, are none.
+	whole := allKinds().Rules
+	for count := range whole {
+		for rule := count; rule < len(whole); rule++ {
+			check(impl.Description{Rules: whole[:count]}, rule)
+		}
+	}
+}
+
+// eachInvalidRule calls check with rules of invalid descriptions, those that do not exist among them.
+func eachInvalidRule(check func(d impl.Description, rule int)) {
+	for _, d := range invalidDescriptions() {
+		for _, rule := range append(outsideIndexes(len(d.Rules)), numbers(0, min(len(d.Rules), 30)+1)...) {
+			check(d, rule)
+		}
+	}
+}
+
+// someValues returns values, each of which belongs to a rule of allKinds or to none.
+func someValues() []impl.Value {
+	return []impl.Value{{}, num(1), raw("a"), zeros(16), parts(impl.Value{}), tagged(7, impl.Value{}), parts(impl.Value{}, zeros(16), impl.Value{}), parts(parts(impl.Value{}, zeros(16), impl.Value{}))}
+}
+
 // checkNoValue tests everything about a rule that does not exist, or one of an invalid description.
 func checkNoValue(t *testing.T, d impl.Description, rule int) {
 	t.Helper()
 	if got := impl.DefaultValue(d, rule); plainText(got) != plainText(impl.Value{}) {
 		t.Errorf("DefaultValue of the rule %d of %+v = %+v", rule, d, got)
 	}
-	for _, v := range []impl.Value{{}, num(1), raw("a"), zeros(16), parts(impl.Value{}), tagged(7, impl.Value{}), parts(impl.Value{}, zeros(16), impl.Value{}), parts(parts(impl.Value{}, zeros(16), impl.Value{}))} {
+	for _, v := range someValues() {
 		if impl.IsValidValue(d, rule, v) {
 			t.Errorf("%+v is a value of the rule %d of %+v", v, rule, d)
 		}
@@ -1275,34 +1305,13 @@ func checkNoValue(t *testing.T, d impl.Description, rule int) {
 }
 
 func TestValuesOutside(t *testing.T) {
-	for _, d := range append(validDescriptions(), startDescriptions(50)...) {
-		for _, rule := range outsideIndexes(len(d.Rules)) {
-			checkNoValue(t, d, rule)
-		}
-	}
-	// Rules in the spare capacity, and those that were cut off, are none.
-	whole := allKinds().Rules
-	for count := range whole {
-		for rule := count; rule < len(whole); rule++ {
-			checkNoValue(t, impl.Description{Rules: whole[:count]}, rule)
-		}
-	}
+	eachMissingRule(func(d impl.Description, rule int) { checkNoValue(t, d, rule) })
 }
 
 func TestValuesOfInvalidDescriptions(t *testing.T) {
-	for _, d := range invalidDescriptions() {
-		for _, rule := range append(outsideIndexes(len(d.Rules)), numbers(0, min(len(d.Rules), 30)+1)...) {
-			checkNoValue(t, d, rule)
-		}
-	}
-	// What breaks a description may be a rule that is not asked about: a later one, or one too many.
-	late := append(allKinds().Rules, impl.Rule{Name: "late", Kind: impl.KindOption, Kids: []int{11}})
-	double := append(allKinds().Rules, impl.Rule{Name: "integer", Kind: impl.KindFixed, Size: 1})
-	for _, rules := range [][]impl.Rule{late, double, append(allKinds().Rules, manyRules(14).Rules...)} {
-		for rule := range rules {
-			checkNoValue(t, impl.Description{Rules: rules}, rule)
-		}
-		d := impl.Description{Rules: rules[:11]}
+	eachInvalidRule(func(d impl.Description, rule int) { checkNoValue(t, d, rule) })
+	for _, broken := range brokenBehind() {
+		d := impl.Description{Rules: broken.Rules[:11]}
 		checkValid(t, d, 9, parts(impl.Value{}, zeros(16), impl.Value{}), true)
 		checkItemRules(t, d, 9, parts(impl.Value{}, zeros(16), impl.Value{}), 2, 3, 8)
 		checkDefault(t, d, 9, parts(impl.Value{}, zeros(16), impl.Value{}))

@@ -864,7 +864,7 @@ func TestValueLinesOfRandomValues(t *testing.T) {
 // checkNoTexts tests everything about a rule that does not exist, or one of an invalid description.
 func checkNoTexts(t *testing.T, d impl.Description, rule int) {
 	t.Helper()
-	for _, v := range []impl.Value{{}, num(1), raw("a"), zeros(16), parts(impl.Value{}), tagged(7, impl.Value{}), parts(impl.Value{}, zeros(16), impl.Value{}), parts(parts(impl.Value{}, zeros(16), impl.Value{}))} {
+	for _, v := range someValues() {
 		checkUnwritten(t, d, rule, v)
 	}
 	for _, text := range []string{"", "0", "7", "!", "x", "x00", "x00000000000000000000000000000000", "[]", "[0]", "{}", "{a:0}", "{n:0}", "0<!>", "0<0>", "7<0>", "-", "?0", "()", "(0)", "(!)"} {
@@ -875,32 +875,13 @@ func checkNoTexts(t *testing.T, d impl.Description, rule int) {
 }
 
 func TestTextsOutside(t *testing.T) {
-	for _, d := range append(validDescriptions(), startDescriptions(50)...) {
-		for _, rule := range outsideIndexes(len(d.Rules)) {
-			checkNoTexts(t, d, rule)
-		}
-	}
-	whole := allKinds().Rules
-	for count := range whole {
-		for rule := count; rule < len(whole); rule++ {
-			checkNoTexts(t, impl.Description{Rules: whole[:count]}, rule)
-		}
-	}
+	eachMissingRule(func(d impl.Description, rule int) { checkNoTexts(t, d, rule) })
 }
 
 func TestTextsOfInvalidDescriptions(t *testing.T) {
-	for _, d := range invalidDescriptions() {
-		for _, rule := range append(outsideIndexes(len(d.Rules)), numbers(0, min(len(d.Rules), 30)+1)...) {
-			checkNoTexts(t, d, rule)
-		}
-	}
-	late := append(allKinds().Rules, impl.Rule{Name: "late", Kind: impl.KindOption, Kids: []int{11}})
-	double := append(allKinds().Rules, impl.Rule{Name: "integer", Kind: impl.KindFixed, Size: 1})
-	for _, rules := range [][]impl.Rule{late, double, append(allKinds().Rules, manyRules(14).Rules...)} {
-		for rule := range rules {
-			checkNoTexts(t, impl.Description{Rules: rules}, rule)
-		}
-		checkText(t, impl.Description{Rules: rules[:11]}, 0, num(0), "0")
+	eachInvalidRule(func(d impl.Description, rule int) { checkNoTexts(t, d, rule) })
+	for _, broken := range brokenBehind() {
+		checkText(t, impl.Description{Rules: broken.Rules[:11]}, 0, num(0), "0")
 	}
 }
 

@@ -447,35 +447,30 @@ func TestReadNothing(t *testing.T) {
 		}
 	}
 	checkFile(t, d, strings.Repeat("\x01", 401), impl.Value{}, 0, impl.ErrRule)
-	for _, d := range append(validDescriptions(), startDescriptions(20)...) {
-		for _, rule := range outsideIndexes(len(d.Rules)) {
-			for at := range 3 {
-				checkReading(t, d, rule, "\x00\x01", at, impl.Value{}, 0, impl.ErrRule)
-			}
+	eachMissingRule(func(d impl.Description, rule int) {
+		for at := range 3 {
+			checkReading(t, d, rule, "\x00\x01", at, impl.Value{}, 0, impl.ErrRule)
 		}
-	}
-	whole := allKinds().Rules
-	for count := range whole {
-		for rule := count; rule < len(whole); rule++ {
-			checkReading(t, impl.Description{Rules: whole[:count]}, rule, "PK", 0, impl.Value{}, 0, impl.ErrRule)
-		}
-	}
+	})
 }
 
 func TestReadWithInvalidDescriptions(t *testing.T) {
-	late := append(allKinds().Rules, impl.Rule{Name: "late", Kind: impl.KindOption, Kids: []int{11}})
-	double := append(allKinds().Rules, impl.Rule{Name: "integer", Kind: impl.KindFixed, Size: 1})
-	for _, d := range append(invalidDescriptions(), impl.Description{Rules: late}, impl.Description{Rules: double}) {
-		for _, b := range []string{"", "\x00", "\x00\x01", "PK", strings.Repeat("\x01", 400), strings.Repeat("\x01", 401)} {
-			for _, rule := range append(outsideIndexes(len(d.Rules)), numbers(0, min(len(d.Rules), 30)+1)...) {
-				for _, at := range []int{-1, 0, 1, len(b)} {
-					checkReading(t, d, rule, b, at, impl.Value{}, 0, impl.ErrRule)
-				}
+	texts := []string{"", "\x00", "\x00\x01", "PK", strings.Repeat("\x01", 400), strings.Repeat("\x01", 401)}
+	eachInvalidRule(func(d impl.Description, rule int) {
+		for _, b := range texts {
+			for _, at := range []int{-1, 0, 1, len(b)} {
+				checkReading(t, d, rule, b, at, impl.Value{}, 0, impl.ErrRule)
 			}
+		}
+	})
+	for _, d := range invalidDescriptions() {
+		for _, b := range texts {
 			checkFile(t, d, b, impl.Value{}, 0, impl.ErrRule)
 		}
 	}
-	checkRead(t, impl.Description{Rules: late[:11]}, 0, num(7), "\x07")
+	for _, broken := range brokenBehind() {
+		checkRead(t, impl.Description{Rules: broken.Rules[:11]}, 0, num(7), "\x07")
+	}
 }
 
 func TestReadFiles(t *testing.T) {
