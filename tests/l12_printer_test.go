@@ -420,13 +420,20 @@ func TestPrintManyLevels(t *testing.T) {
 	checkPrint(t, d, 14, v, string(changed))
 }
 
-// plainPrinting is the encoding of a valid value as the document says it, kind by kind; it is for values that are not too large.
+// plainPrinting is the canonical encoding of a valid value; it is for values that are not too large.
 func plainPrinting(d impl.Description, rule int, v impl.Value) string {
+	return plainEncoding(d, rule, v, func(content string, end string) string {
+		return strings.ReplaceAll(strings.ReplaceAll(content, "\\", "\\\\"), end, "\\"+end) + end
+	})
+}
+
+// plainEncoding is an encoding of a valid value as the document says it, kind by kind; escape writes the content of a terminated, with its end.
+func plainEncoding(d impl.Description, rule int, v impl.Value, escape func(content string, end string) string) string {
 	r, encoding := d.Rules[rule], ""
 	number := func(n int) string { return plainTag(d.Rules[r.Kids[0]], n) }
 	items := func(rules ...int) {
 		for at, kid := range rules {
-			encoding += plainPrinting(d, kid, v.Items[at])
+			encoding += plainEncoding(d, kid, v.Items[at], escape)
 		}
 	}
 	switch r.Kind {
@@ -439,8 +446,7 @@ func plainPrinting(d impl.Description, rule int, v impl.Value) string {
 	case impl.KindSized:
 		return number(len(v.Bytes)) + string(v.Bytes)
 	case impl.KindTerminated:
-		end := string(r.Bytes)
-		return strings.ReplaceAll(strings.ReplaceAll(string(v.Bytes), "\\", "\\\\"), end, "\\"+end) + end
+		return escape(string(v.Bytes), string(r.Bytes))
 	case impl.KindArray:
 		items(slices.Repeat(r.Kids[1:], len(v.Items))...)
 		return number(len(v.Items)) + encoding
